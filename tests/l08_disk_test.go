@@ -40,16 +40,16 @@ func modelOf(d impl.Disk) (diskModel, bool) {
 	return m, true
 }
 
+// put asks for room last: only an op that the tree takes is to stand in wait.
 func (m diskModel) put(o impl.Op) (diskModel, int) {
-	if o.Kind == impl.OpSync {
-		return diskModel{behind: []impl.Tree{m.live()}}, impl.FsOk
-	}
-	if len(m.wait) >= maxWait {
-		return m, impl.FsFull
-	}
 	tree, code := expectDo(m.live(), o)
-	if code != impl.FsOk {
+	switch {
+	case code != impl.FsOk:
 		return m, code
+	case o.Kind == impl.OpSync:
+		return diskModel{behind: []impl.Tree{m.live()}}, impl.FsOk
+	case len(m.wait) >= maxWait:
+		return m, impl.FsFull
 	}
 	return diskModel{append(slices.Clone(m.behind), tree), append(slices.Clone(m.wait), o)}, impl.FsOk
 }
@@ -225,9 +225,14 @@ func refusedOps() []refusal {
 
 // waitingDisk has so many ops in Wait, which leave /b with the mode that tells how many.
 func waitingDisk(count int) impl.Disk {
-	d := impl.Disk{Safe: sampleTree()}
-	for i := range count {
-		d.Wait = append(d.Wait, impl.Op{Kind: impl.OpMode, Path: "/b", Mode: i + 1})
+	return filledUp(impl.Disk{Safe: sampleTree()}, "/b", count)
+}
+
+// filledUp is a disk with modes of a path put behind what stands in Wait, till there are so many ops.
+func filledUp(d impl.Disk, path string, count int) impl.Disk {
+	d = cloneDisk(d)
+	for len(d.Wait) < count {
+		d.Wait = append(d.Wait, impl.Op{Kind: impl.OpMode, Path: path, Mode: len(d.Wait) + 1})
 	}
 	return d
 }
@@ -497,16 +502,6 @@ func TestPutUpToTheLimit(t *testing.T) {
 			}
 			checkPut(t, mustModel(t, d), o)
 		}
-		// Where it is full that is said first, of what the tree refuses, too.
-		for _, r := range refusedOps() {
-			want := r.code
-			if count == maxWait {
-				want = impl.FsFull
-			}
-			if got, gotCode := impl.Put(d, r.o); gotCode != want || !sameDisk(got, d) {
-				t.Errorf("%s told %d, want %d, with %d that wait: %s", textOfOp(r.o), gotCode, want, count, textOfDisk(got))
-			}
-		}
 	}
 	full := mustModel(t, waitingDisk(maxWait))
 	m := checkPutAll(t, full, []refusal{{last, impl.FsFull}, {impl.Op{Kind: impl.OpSync, Path: "none"}, impl.FsOk}, {last, impl.FsOk}, {impl.Op{Kind: impl.OpSync}, impl.FsOk}})
@@ -521,10 +516,96 @@ func TestPutUpToTheLimit(t *testing.T) {
 	}
 }
 
+// refusalsByKind are ops of each kind that can be refused, by what any number of modes of /b make of sampleTree: for each kind each code that Do has for it there.
+func refusalsByKind() []refusal {
+	long := strings.Repeat("x", 3001)
+	return []refusal{
+		{impl.Op{Kind: impl.OpMake, Path: "/"}, impl.FsBad}, {impl.Op{Kind: impl.OpMake, Path: "/c", Mode: 512}, impl.FsBad}, {impl.Op{Kind: impl.OpMake, Path: "/c", Time: -1}, impl.FsBad},
+		{impl.Op{Kind: impl.OpMake, Path: "/b"}, impl.FsThere}, {impl.Op{Kind: impl.OpMake, Path: "/a"}, impl.FsThere}, {impl.Op{Kind: impl.OpMake, Path: "/no/c"}, impl.FsNone}, {impl.Op{Kind: impl.OpMake, Path: "/b/c"}, impl.FsNone},
+		{impl.Op{Kind: impl.OpNew, Path: "c"}, impl.FsBad}, {impl.Op{Kind: impl.OpNew, Path: "/c", Mode: -1}, impl.FsBad}, {impl.Op{Kind: impl.OpNew, Path: "/c", Time: lastTime + 1}, impl.FsBad},
+		{impl.Op{Kind: impl.OpNew, Path: "/b"}, impl.FsThere}, {impl.Op{Kind: impl.OpNew, Path: "/a/b"}, impl.FsThere}, {impl.Op{Kind: impl.OpNew, Path: "/no/c"}, impl.FsNone}, {impl.Op{Kind: impl.OpNew, Path: "/a/x/c"}, impl.FsNone},
+		{impl.Op{Kind: impl.OpAdd, Data: "x"}, impl.FsBad}, {impl.Op{Kind: impl.OpAdd, Path: "/b", Time: -1}, impl.FsBad}, {impl.Op{Kind: impl.OpAdd, Path: "/c", Data: "x"}, impl.FsNone}, {impl.Op{Kind: impl.OpAdd, Path: "/a", Data: long}, impl.FsKind}, {impl.Op{Kind: impl.OpAdd, Path: "/b", Data: long}, impl.FsFull},
+		{impl.Op{Kind: impl.OpCut, Path: "/b/"}, impl.FsBad}, {impl.Op{Kind: impl.OpCut, Path: "/b", Time: -1}, impl.FsBad}, {impl.Op{Kind: impl.OpCut, Path: "/c"}, impl.FsNone}, {impl.Op{Kind: impl.OpCut, Path: "/e"}, impl.FsKind},
+		{impl.Op{Kind: impl.OpMove, Path: "/b", To: "c"}, impl.FsBad}, {impl.Op{Kind: impl.OpMove, Path: "/b", To: "/b"}, impl.FsBad}, {impl.Op{Kind: impl.OpMove, Path: "/a", To: "/a/b/d"}, impl.FsBad}, {impl.Op{Kind: impl.OpMove, Path: "/c", To: "/d"}, impl.FsNone},
+		{impl.Op{Kind: impl.OpMove, Path: "/b", To: "/e"}, impl.FsKind}, {impl.Op{Kind: impl.OpMove, Path: "/e", To: "/b"}, impl.FsKind}, {impl.Op{Kind: impl.OpMove, Path: "/b", To: "/no/c"}, impl.FsNone}, {impl.Op{Kind: impl.OpMove, Path: "/e", To: "/b/c"}, impl.FsNone},
+		{impl.Op{Kind: impl.OpDrop, Path: "/"}, impl.FsBad}, {impl.Op{Kind: impl.OpDrop, Path: "/c"}, impl.FsNone}, {impl.Op{Kind: impl.OpDrop, Path: "/a"}, impl.FsBusy}, {impl.Op{Kind: impl.OpDrop, Path: "/a/b"}, impl.FsBusy},
+		{impl.Op{Kind: impl.OpMode, Path: "b"}, impl.FsBad}, {impl.Op{Kind: impl.OpMode, Path: "/b", Mode: 512}, impl.FsBad}, {impl.Op{Kind: impl.OpMode, Path: "/c"}, impl.FsNone},
+		{impl.Op{Kind: impl.OpTouch, Path: "/.."}, impl.FsBad}, {impl.Op{Kind: impl.OpTouch, Path: "/b", Time: -1}, impl.FsBad}, {impl.Op{Kind: impl.OpTouch, Path: "/c"}, impl.FsNone},
+		{impl.Op{Kind: -1, Path: "/b"}, impl.FsBad}, {impl.Op{Kind: 9, Path: "/b"}, impl.FsBad}, {impl.Op{Kind: math.MaxInt, Path: "/c"}, impl.FsBad}, {impl.Op{Kind: math.MinInt}, impl.FsBad},
+	}
+}
+
+// What Do refuses isn't to stand in Wait: its code is told, whether there is room or not, and the disk stays as it was.
+func TestPutOfWhatIsRefusedWhereWaitIsFull(t *testing.T) {
+	for _, count := range []int{0, 1, maxWait - 1, maxWait} {
+		d := waitingDisk(count)
+		for _, r := range slices.Concat(refusalsByKind(), refusedOps()) {
+			got, code := impl.Put(d, r.o)
+			if code != r.code || !sameDisk(got, d) {
+				t.Errorf("%s told %d, want %d, with %d that wait: %s", textOfOp(r.o), code, r.code, count, textOfDisk(got))
+			}
+			if _, doCode := impl.Do(impl.Live(d), r.o); doCode != r.code {
+				t.Errorf("%s done to what is live told %d, want %d", textOfOp(r.o), doCode, r.code)
+			}
+			checkPut(t, mustModel(t, d), r.o)
+		}
+	}
+}
+
+// Where Wait is full, and the tree has no room either, what Do names ahead of its own FsFull is told.
+func TestPutWhereWaitAndTreeAreFull(t *testing.T) {
+	noIds := sampleTree()
+	noIds.Next = 1000000
+	news := func(path string, code int) []refusal {
+		return []refusal{{impl.Op{Kind: impl.OpMake, Path: path}, code}, {impl.Op{Kind: impl.OpNew, Path: path}, code}}
+	}
+	full := treeOf(folder("/a"), file("/b", strings.Repeat("x", 3000)))
+	rows := []struct {
+		tree impl.Tree
+		path string
+		list []refusal
+	}{
+		{filledTree(60), "/f01", slices.Concat(news("/f02", impl.FsThere), news("/a", impl.FsThere), news("/no/c", impl.FsNone), news("/c", impl.FsFull), news("/a/c", impl.FsFull), news("c", impl.FsBad))},
+		{noIds, "/b", slices.Concat(news("/b", impl.FsThere), news("/b/c", impl.FsNone), news("/c", impl.FsFull), news("/", impl.FsBad))},
+		{full, "/b", []refusal{{impl.Op{Kind: impl.OpAdd, Path: "/b", Data: "x"}, impl.FsFull}, {impl.Op{Kind: impl.OpAdd, Path: "/a", Data: "x"}, impl.FsKind}, {impl.Op{Kind: impl.OpAdd, Path: "/c", Data: "x"}, impl.FsNone}}},
+		// A folder with so much under it that a move would leave no paths.
+		{deepTree(), "/z", []refusal{{impl.Op{Kind: impl.OpMove, Path: "/a", To: "/1/2/3/4/a"}, impl.FsBad}, {impl.Op{Kind: impl.OpMove, Path: "/a", To: "/z"}, impl.FsKind}, {impl.Op{Kind: impl.OpMove, Path: "/1", To: "/no/1"}, impl.FsNone}}},
+	}
+	for _, r := range rows {
+		for _, count := range []int{maxWait - 1, maxWait} {
+			checkPutAll(t, mustModel(t, filledUp(impl.Disk{Safe: r.tree}, r.path, count)), r.list)
+		}
+	}
+}
+
+// What is live tells the code, not what is safe, also where Wait is full.
+func TestPutWhereWaitIsFullAsksWhatIsLive(t *testing.T) {
+	for _, count := range []int{maxWait - 1, maxWait} {
+		code := impl.FsOk
+		if count == maxWait {
+			code = impl.FsFull
+		}
+		m := mustModel(t, filledUp(impl.Disk{Safe: sampleTree(), Wait: goodOps()}, "/b", count))
+		for _, r := range []refusal{
+			{impl.Op{Kind: impl.OpNew, Path: "/c"}, impl.FsThere}, {impl.Op{Kind: impl.OpMake, Path: "/a/d"}, impl.FsNone}, {impl.Op{Kind: impl.OpAdd, Path: "/c", Data: "x"}, impl.FsKind}, {impl.Op{Kind: impl.OpDrop, Path: "/c"}, impl.FsBusy}, {impl.Op{Kind: impl.OpTouch, Path: "/e"}, impl.FsNone},
+			{impl.Op{Kind: impl.OpMake, Path: "/e"}, code}, {impl.Op{Kind: impl.OpNew, Path: "/c/d"}, code}, {impl.Op{Kind: impl.OpMode, Path: "/c"}, code}, {impl.Op{Kind: impl.OpDrop, Path: "/c/a/x"}, code}, {impl.Op{Kind: impl.OpSync}, impl.FsOk},
+		} {
+			if _, got := impl.Put(m.disk(), r.o); got != r.code {
+				t.Errorf("%s told %d, want %d, with %d that wait", textOfOp(r.o), got, r.code, count)
+			}
+			checkPut(t, m, r.o)
+		}
+	}
+}
+
 func TestEveryOpPutToDisks(t *testing.T) {
 	ops := everyOp([]string{"/a", "/a/b", "/a/b/c", "/b", "/c", "/c/a", "/e", "/no/a", "/", ""})
+	disks := []impl.Disk{waitingDisk(maxWait - 1), waitingDisk(maxWait)}
 	for many := range len(goodOps()) + 1 {
-		m := mustModel(t, impl.Disk{Safe: sampleTree(), Wait: goodOps()[:many]})
+		disks = append(disks, impl.Disk{Safe: sampleTree(), Wait: goodOps()[:many]})
+	}
+	for _, d := range disks {
+		m := mustModel(t, d)
 		for _, o := range ops {
 			checkPut(t, m, o)
 		}
@@ -572,15 +653,26 @@ func TestManyOpsPut(t *testing.T) {
 func TestPutTillThereIsNoRoom(t *testing.T) {
 	random := rand.New(rand.NewSource(1000))
 	m := mustModel(t, impl.NewDisk(sampleTree()))
-	for refused := 0; refused < 10; {
+	told := map[int]int{}
+	for refused := 0; refused < 300; {
 		o := randomOp(random)
 		if o.Kind == impl.OpSync {
 			continue
 		}
 		if len(m.wait) == maxWait {
+			_, code := impl.Put(m.disk(), o)
+			told[code]++
 			refused++
 		}
 		m = checkPut(t, m, o)
+	}
+	for _, code := range []int{impl.FsBad, impl.FsNone, impl.FsThere, impl.FsKind, impl.FsFull, impl.FsBusy} {
+		if told[code] == 0 {
+			t.Errorf("code %d was never told without room", code)
+		}
+	}
+	if told[impl.FsOk] > 0 {
+		t.Errorf("%d ops were put without room", told[impl.FsOk])
 	}
 	checkDisk(t, m.disk())
 	checkPut(t, m, impl.Op{Kind: impl.OpSync})
